@@ -1,0 +1,1 @@
+"""Rows in which one thing changes."""

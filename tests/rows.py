@@ -1,0 +1,62 @@
+"""The rows, built straight from the document's words, and what the tests share."""
+
+LARGEST_PLACE = 18446744073709551615
+SMALLEST_NUMBER = -2147483648
+LARGEST_NUMBER = 2147483647
+
+
+def row_of_words(n):
+    """Those of one bit less in their order, then, from behind, the same with the new bit set besides."""
+    row = [0]
+    for bit in range(n):
+        row = row + [word | 1 << bit for word in reversed(row)]
+    return row
+
+
+def row_of_digits(k, n):
+    """Each digit in turn, and behind it the shorter rows, by turns forwards and from behind."""
+    if n == 0:
+        return [[]]
+    forwards = row_of_digits(k, n - 1)
+    from_behind = list(reversed(forwards))
+    row = []
+    for digit in range(k):
+        shorter_rows = from_behind if digit % 2 else forwards
+        row = row + [[digit] + shorter for shorter in shorter_rows]
+    return row
+
+
+def word_in_long_row(n, i):
+    """The word at place i of a row that is too long to be built."""
+    if n == 0:
+        return 0
+    half = 2 ** (n - 1)
+    if i < half:
+        return word_in_long_row(n - 1, i)
+    return half + word_in_long_row(n - 1, 2 * half - 1 - i)
+
+
+def digits_in_long_row(k, n, i):
+    """The digits at place i of a row that is too long to be built."""
+    if n == 0:
+        return []
+    part = k ** (n - 1)
+    digit = 0
+    while i >= part:
+        i = i - part
+        digit = digit + 1
+    behind = i if digit % 2 == 0 else part - 1 - i
+    return [digit] + digits_in_long_row(k, n - 1, behind)
+
+
+def spread_places(length):
+    """Some places of a long row: its ends, its middle, the powers of two and their neighbours, and strides."""
+    places = {0, 1, length // 3, length // 2 - 1, length // 2, length - 2, length - 1}
+    for exponent in range(length.bit_length()):
+        places.update((2 ** exponent - 1, 2 ** exponent, 2 ** exponent + 1))
+    places.update(range(0, length, length // 97 + 1))
+    return sorted(place for place in places if 0 <= place < length)
+
+
+def is_list_of_whole_numbers(answer):
+    return type(answer) is list and all(type(number) is int for number in answer)

@@ -1,0 +1,58 @@
+"""What the document's interface says of every function."""
+
+import contextlib
+import inspect
+import io
+import pathlib
+import subprocess
+import sys
+import unittest
+
+from singlechange import changerows
+
+ROOT = pathlib.Path(__file__).resolve().parent.parent
+PARAMETERS = {"gr_word": ["n", "i"], "gr_digits": ["k", "n", "i"]}
+CALLS = (
+    (changerows.gr_word, (5, 17)), (changerows.gr_word, (5, 32)), (changerows.gr_word, (0, 0)),
+    (changerows.gr_digits, (3, 4, 50)), (changerows.gr_digits, (3, 4, 81)), (changerows.gr_digits, (1, 4, 0)),
+)
+
+
+def values_of_module():
+    return {name: repr(value) for name, value in vars(changerows).items() if not name.startswith("__")}
+
+
+class Interface(unittest.TestCase):
+    def test_names_and_arguments(self):
+        for name, parameters in PARAMETERS.items():
+            signature = inspect.signature(getattr(changerows, name))
+            self.assertEqual(list(signature.parameters), parameters, name)
+            for parameter in signature.parameters.values():
+                self.assertIs(parameter.default, inspect.Parameter.empty, name)
+
+    def test_nothing_is_printed(self):
+        printed = io.StringIO()
+        with contextlib.redirect_stdout(printed), contextlib.redirect_stderr(printed):
+            for function, arguments in CALLS:
+                function(*arguments)
+        self.assertEqual(printed.getvalue(), "")
+
+    def test_nothing_is_kept(self):
+        before = values_of_module()
+        answers = [function(*arguments) for function, arguments in CALLS]
+        backwards = [function(*arguments) for function, arguments in reversed(CALLS)]
+        self.assertEqual(answers, list(reversed(backwards)))
+        self.assertEqual(values_of_module(), before)
+
+    def test_nothing_else_is_imported(self):
+        program = (
+            "import sys; before = set(sys.modules); import singlechange.changerows; "
+            "print(sorted(set(sys.modules) - before))")
+        run = subprocess.run(
+            [sys.executable, "-c", program], cwd=ROOT, capture_output=True, text=True, check=True)
+        self.assertEqual(run.stdout.strip(), "['singlechange', 'singlechange.changerows']")
+        self.assertEqual(run.stderr, "")
+
+
+if __name__ == "__main__":
+    unittest.main()
