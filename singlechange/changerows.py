@@ -23,6 +23,25 @@ def gr_digits(k, n, i):
     return [0] + digits_at(k, n, size, i)
 
 
+def gr_set(n, k, i):
+    """Answer 0 and the set, as a mask, at place i of the row of sets of k of n, or a refusal."""
+    if n < 1 or n > 63 or k < 0 or k > n:
+        return [OUT_OF_RANGE]
+    size = set_row_length(n, k)
+    if i >= size:
+        return [NO_SUCH_PLACE]
+    return [0, set_at(n, k, size, i)]
+
+
+def gr_order(n, i):
+    """Answer 0 and the n numbers at place i of the row of orders, or a refusal."""
+    if n < 1 or n > 20:
+        return [OUT_OF_RANGE]
+    if i >= order_row_length(n):
+        return [NO_SUCH_PLACE]
+    return [0] + order_at(n, i)
+
+
 def word_at(i):
     """The word at place i of every row of words that is long enough."""
     # A set bit of the word turns round the row below it, which flips each lower bit of the place.
@@ -52,3 +71,63 @@ def digits_at(k, n, size, i):
             place = part - 1 - place
         digits.append(digit)
     return digits
+
+
+def set_row_length(n, k):
+    """How many sets of k of n there are."""
+    length = 1
+    for chosen in range(k):
+        # Divided in this order nothing is lost: each length on the way is itself a number of sets.
+        length = length * (n - chosen) // (chosen + 1)
+    return length
+
+
+def set_at(n, k, size, i):
+    """The set, as a mask, at place i of the row of sets of k of n, which has size places."""
+    mask = 0
+    missing = k
+    part = size
+    place = i
+    for number in range(n - 1, -1, -1):
+        # Each of the number + 1 things is in equally many of the sets, so this share lacks the last one.
+        without = part * (number + 1 - missing) // (number + 1)
+        if place < without:
+            part = without
+        else:
+            # These sets stand from behind at the end of the row, so their place is counted from there.
+            place = part - 1 - place
+            part = part - without
+            missing = missing - 1
+            mask = mask | (1 << number)
+    return mask
+
+
+def order_row_length(n):
+    """How many orders of n numbers there are."""
+    length = 1
+    for number in range(n):
+        length = length * (number + 1)
+    return length
+
+
+def order_at(n, i):
+    """The order of 0 to n - 1 at place i of their row."""
+    order = []
+    for number, spot in enumerate(reversed(spots_at(n, i))):
+        order.insert(spot, number)
+    return order
+
+
+def spots_at(n, i):
+    """Where n - 1, n - 2 and so on to 0 are put in among the smaller ones, for the order at place i."""
+    spots = []
+    place = i
+    for number in range(n - 1, -1, -1):
+        step = place % (number + 1)
+        place = place // (number + 1)
+        # The place that is left is that of the smaller ones' order: place 0, an even one, is the first order.
+        if place % 2 == 0:
+            spots.append(number - step)
+        else:
+            spots.append(step)
+    return spots

@@ -1,5 +1,8 @@
 """The rows, built straight from the document's words, and what the tests share."""
 
+import functools
+import math
+
 LARGEST_PLACE = 18446744073709551615
 SMALLEST_NUMBER = -2147483648
 LARGEST_NUMBER = 2147483647
@@ -26,6 +29,29 @@ def row_of_digits(k, n):
     return row
 
 
+@functools.lru_cache(maxsize=None)
+def row_of_sets(n, k):
+    """Those without the last number, then, from behind, those of one less with the last number besides."""
+    # Kept, since the words lead to the same shorter row on very many ways.
+    if k == 0:
+        return (0,)
+    if n == 0:
+        return ()
+    with_last = [mask | 1 << n - 1 for mask in reversed(row_of_sets(n - 1, k - 1))]
+    return row_of_sets(n - 1, k) + tuple(with_last)
+
+
+def row_of_orders(n):
+    """Into each shorter order the last number is put, by turns from behind to the front and from the front."""
+    if n == 0:
+        return [[]]
+    row = []
+    for turn, shorter in enumerate(row_of_orders(n - 1)):
+        from_the_front = [shorter[:spot] + [n - 1] + shorter[spot:] for spot in range(n)]
+        row = row + (from_the_front if turn % 2 else list(reversed(from_the_front)))
+    return row
+
+
 def word_in_long_row(n, i):
     """The word at place i of a row that is too long to be built."""
     if n == 0:
@@ -47,6 +73,27 @@ def digits_in_long_row(k, n, i):
         digit = digit + 1
     behind = i if digit % 2 == 0 else part - 1 - i
     return [digit] + digits_in_long_row(k, n - 1, behind)
+
+
+def set_in_long_row(n, k, i):
+    """The set at place i of a row that is too long to be built."""
+    if k == 0:
+        return 0
+    without_last = math.comb(n - 1, k)
+    if i < without_last:
+        return set_in_long_row(n - 1, k, i)
+    from_behind = math.comb(n - 1, k - 1) - 1 - (i - without_last)
+    return 2 ** (n - 1) + set_in_long_row(n - 1, k - 1, from_behind)
+
+
+def order_in_long_row(n, i):
+    """The order at place i of a row that is too long to be built."""
+    if n == 0:
+        return []
+    turn, step = divmod(i, n)
+    shorter = order_in_long_row(n - 1, turn)
+    spot = step if turn % 2 else len(shorter) - step
+    return shorter[:spot] + [n - 1] + shorter[spot:]
 
 
 def spread_places(length):

@@ -31,6 +31,8 @@ ALLOWED_FORMS = (
     ast.operator, ast.unaryop, ast.boolop, ast.cmpop, ast.IfExp, ast.Call, ast.keyword, ast.Attribute,
     ast.Subscript, ast.Slice, ast.ListComp, ast.comprehension, ast.Lambda,
 )
+WALKED_AT_ONCE = ("zip", "enumerate", "reversed", "range")
+WALKERS = ("list", "tuple", "dict", "sorted", "sum", "any", "all", "enumerate", "zip", "min", "max")
 TOP_FORMS = (ast.Expr, ast.ImportFrom, ast.FunctionDef, ast.Assign)
 
 
@@ -56,6 +58,21 @@ def bound_names(tree):
             found.append(node.arg)
         if isinstance(node, ast.Name) and isinstance(node.ctx, ast.Store):
             found.append(node.id)
+    return found
+
+
+def called_name(node):
+    return node.func.id if isinstance(node, ast.Call) and isinstance(node.func, ast.Name) else None
+
+
+def walked_parts(tree):
+    """What stands behind the `in` of a walk, or first in a call that walks it."""
+    found = []
+    for node in ast.walk(tree):
+        if isinstance(node, (ast.For, ast.comprehension)):
+            found.append(node.iter)
+        if called_name(node) in WALKERS:
+            found = found + node.args[:1]
     return found
 
 
@@ -118,6 +135,13 @@ class Forms(unittest.TestCase):
             if isinstance(node.op, ast.Pow):
                 self.assertIsInstance(node.right, ast.Constant, name)
                 self.assertIn(node.right.value, range(65), name)
+
+    def test_walked_at_once(self):
+        for name, tree in trees():
+            walked = walked_parts(tree)
+            for node in ast.walk(tree):
+                if called_name(node) in WALKED_AT_ONCE:
+                    self.assertIn(node, walked, (name, node.lineno))
 
 
 class Names(unittest.TestCase):
