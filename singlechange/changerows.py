@@ -1,7 +1,8 @@
-"""What stands at a place of a row in which one thing changes."""
+"""What stands at a place of a row in which one thing changes, and at which place something stands."""
 
 OUT_OF_RANGE = -2
 NO_SUCH_PLACE = -3
+NOT_IN_ROW = -3
 
 
 def gr_word(n, i):
@@ -42,11 +43,41 @@ def gr_order(n, i):
     return [0] + order_at(n, i)
 
 
+def gr_place(n, word):
+    """Answer 0 and the place of the word in the row of words of n bits, or a refusal."""
+    if n < 1 or n > 63:
+        return [OUT_OF_RANGE]
+    if word >> n > 0:
+        return [NOT_IN_ROW]
+    return [0, place_of_word(word)]
+
+
+def gr_digit_place(k, n, digits):
+    """Answer 0 and the place of the n digits in the row of digits below k, or a refusal."""
+    if k < 2 or k > 16 or n < 1 or n > 15:
+        return [OUT_OF_RANGE]
+    if max(digits) >= k:
+        return [NOT_IN_ROW]
+    return [0, place_of_digits(k, digits)]
+
+
 def word_at(i):
     """The word at place i of every row of words that is long enough."""
     # A set bit of the word turns round the row below it, which flips each lower bit of the place.
     # The flips from all higher bits of the word together come to the next higher bit of the place.
     return i ^ (i >> 1)
+
+
+def place_of_word(word):
+    """The place of the word, which is the same in every row of words that has it."""
+    place = 0
+    # Each set bit of the word flips its own bit of the place and, as it turns round the row below it, each lower one.
+    # So a bit of the place is flipped once for each set bit of the word from there on upwards.
+    rest = word
+    while rest > 0:
+        place = place ^ rest
+        rest = rest >> 1
+    return place
 
 
 def digit_row_length(k, n):
@@ -71,6 +102,19 @@ def digits_at(k, n, size, i):
             place = part - 1 - place
         digits.append(digit)
     return digits
+
+
+def place_of_digits(k, digits):
+    """The place of the digits in the row of as many digits below k."""
+    place = 0
+    part = 1
+    # The last digit comes first here, since an odd digit turns round the place of all digits behind it.
+    for digit in reversed(digits):
+        if digit % 2 == 1:
+            place = part - 1 - place
+        place = digit * part + place
+        part = part * k
+    return place
 
 
 def set_row_length(n, k):

@@ -96,6 +96,37 @@ def order_in_long_row(n, i):
     return shorter[:spot] + [n - 1] + shorter[spot:]
 
 
+def place_in_long_row_of_words(n, word):
+    """The place of a word in a row that is too long to be built."""
+    if n == 0:
+        return 0
+    half = 2 ** (n - 1)
+    if word < half:
+        return place_in_long_row_of_words(n - 1, word)
+    return 2 * half - 1 - place_in_long_row_of_words(n - 1, word - half)
+
+
+def place_in_long_row_of_digits(k, digits):
+    """The place of digits in a row that is too long to be built."""
+    if not digits:
+        return 0
+    part = k ** (len(digits) - 1)
+    behind = place_in_long_row_of_digits(k, digits[1:])
+    if digits[0] % 2 == 0:
+        return digits[0] * part + behind
+    return (digits[0] + 1) * part - 1 - behind
+
+
+class UnchangeableList(list):
+    """A list that fails on every try to change it, even if the change would be taken back."""
+
+    def refuse(self, *arguments, **named):
+        raise AssertionError("what is handed in is changed")
+
+    append = clear = extend = insert = pop = remove = reverse = sort = refuse
+    __setitem__ = __delitem__ = __iadd__ = __imul__ = refuse
+
+
 def spread_places(length):
     """Some places of a long row: its ends, its middle, the powers of two and their neighbours, and strides."""
     places = {0, 1, length // 3, length // 2 - 1, length // 2, length - 2, length - 1}

@@ -13,12 +13,16 @@ from singlechange import changerows
 ROOT = pathlib.Path(__file__).resolve().parent.parent
 PARAMETERS = {
     "gr_word": ["n", "i"], "gr_digits": ["k", "n", "i"], "gr_set": ["n", "k", "i"], "gr_order": ["n", "i"],
+    "gr_place": ["n", "word"], "gr_digit_place": ["k", "n", "digits"],
 }
 CALLS = (
     (changerows.gr_word, (5, 17)), (changerows.gr_word, (5, 32)), (changerows.gr_word, (0, 0)),
     (changerows.gr_digits, (3, 4, 50)), (changerows.gr_digits, (3, 4, 81)), (changerows.gr_digits, (1, 4, 0)),
     (changerows.gr_set, (6, 3, 11)), (changerows.gr_set, (6, 3, 20)), (changerows.gr_set, (6, 7, 0)),
     (changerows.gr_order, (5, 77)), (changerows.gr_order, (5, 120)), (changerows.gr_order, (21, 0)),
+    (changerows.gr_place, (5, 25)), (changerows.gr_place, (5, 32)), (changerows.gr_place, (0, 0)),
+    (changerows.gr_digit_place, (3, 4, [1, 2, 0, 1])), (changerows.gr_digit_place, (3, 4, [1, 2, 3, 1])),
+    (changerows.gr_digit_place, (1, 4, [])),
 )
 
 
