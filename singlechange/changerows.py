@@ -61,6 +61,24 @@ def gr_digit_place(k, n, digits):
     return [0, place_of_digits(k, digits)]
 
 
+def gr_set_place(n, the_set):
+    """Answer 0 and the place of the set, a mask, in the row of sets of as many of n as it has, or a refusal."""
+    if n < 1 or n > 63:
+        return [OUT_OF_RANGE]
+    if the_set >> n > 0:
+        return [NOT_IN_ROW]
+    return [0, place_of_set(n, the_set)]
+
+
+def gr_order_place(n, order):
+    """Answer 0 and the place of the n numbers in the row of orders, or a refusal."""
+    if n < 1 or n > 20:
+        return [OUT_OF_RANGE]
+    if sorted(order) != list(range(n)):
+        return [NOT_IN_ROW]
+    return [0, place_of_order(n, order)]
+
+
 def word_at(i):
     """The word at place i of every row of words that is long enough."""
     # A set bit of the word turns round the row below it, which flips each lower bit of the place.
@@ -146,6 +164,19 @@ def set_at(n, k, size, i):
     return mask
 
 
+def place_of_set(n, mask):
+    """The place of the set, a mask, in the row of sets of as many of n as it has."""
+    place = 0
+    chosen = 0
+    for number in range(n):
+        # Without the number the place stays: the shorter row begins the longer one.
+        if (mask >> number) % 2 == 1:
+            chosen = chosen + 1
+            # The sets with the number stand from behind at the end of the row.
+            place = set_row_length(number + 1, chosen) - 1 - place
+    return place
+
+
 def order_row_length(n):
     """How many orders of n numbers there are."""
     length = 1
@@ -175,3 +206,20 @@ def spots_at(n, i):
         else:
             spots.append(step)
     return spots
+
+
+def place_of_order(n, order):
+    """The place of the order of 0 to n - 1 in their row."""
+    place = 0
+    for number in range(n):
+        spot = spot_among_smaller(order, number)
+        # The place so far is that of the smaller ones' order: place 0, an even one, is the first order.
+        step = number - spot if place % 2 == 0 else spot
+        place = place * (number + 1) + step
+    return place
+
+
+def spot_among_smaller(order, number):
+    """How many smaller ones stand ahead of the number in the order."""
+    ahead = order[:order.index(number)]
+    return len([other for other in ahead if other < number])

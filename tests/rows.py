@@ -117,6 +117,29 @@ def place_in_long_row_of_digits(k, digits):
     return (digits[0] + 1) * part - 1 - behind
 
 
+def place_in_long_row_of_sets(n, mask):
+    """The place of a set, in the row of the sets of as many of n, which is too long to be built."""
+    if mask == 0:
+        return 0
+    last = 2 ** (n - 1)
+    if mask < last:
+        return place_in_long_row_of_sets(n - 1, mask)
+    k = bin(mask).count("1")
+    without_last = math.comb(n - 1, k)
+    with_last = math.comb(n - 1, k - 1)
+    return without_last + with_last - 1 - place_in_long_row_of_sets(n - 1, mask - last)
+
+
+def place_in_long_row_of_orders(order):
+    """The place of an order in a row that is too long to be built."""
+    if not order:
+        return 0
+    last = len(order) - 1
+    spot = order.index(last)
+    turn = place_in_long_row_of_orders(order[:spot] + order[spot + 1:])
+    return turn * len(order) + (spot if turn % 2 else last - spot)
+
+
 class UnchangeableList(list):
     """A list that fails on every try to change it, even if the change would be taken back."""
 
